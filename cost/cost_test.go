@@ -91,6 +91,9 @@ func TestP20_3FewSteps(t *testing.T) {
 	if s, e := Full(laughs(200, 16, "x"), "&e200;", 1<<40); s != "" || e != api.ErrLimit {
 		t.Error(len(s), e)
 	}
+	if s, e := Full(laughs(200, 16, "x"), "&e200;", top); s != "" || e != api.ErrLimit {
+		t.Error("more than any answer has", len(s), e)
+	}
 	if s, e := Full(laughs(200, 16, ""), "a&e200;b", 2); s != "ab" || e != api.OK {
 		t.Error(len(s), e)
 	}
