@@ -170,6 +170,17 @@ func TestP33_3Limits(t *testing.T) {
 			t.Error(size, got, e)
 		}
 	}
+	// the text from outside costs 8, and its references 1, each time
+	twice := map[int]api.Errno{2 + 9 + 7: api.ErrLimit, 2 + 9 + 8: api.ErrLimit, 2 + 9 + 9: api.OK}
+	for size, want := range twice {
+		c := roomy
+		c.MaxSize = size
+		v := env(t, c, noLoops, script...)
+		got, e := walk(t, v, "&o;&o;")
+		if e != want || e != api.OK && got != "T(12345) T(y)" || len(v.G.Trace()) != 1 {
+			t.Error(size, got, e)
+		}
+	}
 	depths := []struct {
 		s    string
 		deep int
