@@ -1,6 +1,7 @@
 package scope
 
 import (
+	"math/rand"
 	"slices"
 	"testing"
 
@@ -96,4 +97,49 @@ func TestP34Nil(t *testing.T) {
 	find(t, s, "xmlns", api.XmlnsSpace, true)
 	find(t, s, "", "", true)
 	find(t, s, "p", "", false)
+}
+
+// slow tells what a prefix means as the chapter says it.
+func slow(elements [][]Bind, prefix string) (string, bool) {
+	for _, l := range slices.Backward(elements) {
+		for _, b := range slices.Backward(l) {
+			if b.Prefix == prefix {
+				return b.Space, b.Space != "" || prefix == ""
+			}
+		}
+	}
+	return "", prefix == ""
+}
+
+func TestP34_2AtRandom(t *testing.T) {
+	r := rand.New(rand.NewSource(34))
+	prefixes, spaces := []string{"", "a", "b", "c"}, []string{"", "u", "v"}
+	s := New()
+	var elements [][]Bind
+	for range 5000 {
+		if r.Intn(5) < 2 {
+			if s.Pop() != (len(elements) > 0) {
+				t.Fatal("Pop")
+			}
+			elements = elements[:max(len(elements)-1, 0)]
+		} else {
+			var l []Bind
+			for range r.Intn(4) {
+				l = append(l, Bind{prefixes[r.Intn(4)], spaces[r.Intn(3)]})
+			}
+			s.Push(l)
+			elements = append(elements, l)
+		}
+		var all []Bind
+		for _, prefix := range prefixes {
+			space, has := slow(elements, prefix)
+			find(t, s, prefix, space, has)
+			if space != "" {
+				all = append(all, Bind{prefix, space})
+			}
+		}
+		if got := s.All(); !slices.Equal(got, all) || s.Len() != len(elements) {
+			t.Fatal(got, all)
+		}
+	}
 }
