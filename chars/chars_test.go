@@ -90,6 +90,9 @@ func TestP3_4Ranges(t *testing.T) {
 		t.Error(got)
 	}
 	all := func(int) bool { return true }
+	if got := Ranges(all, 7, 7); !slices.Equal(got, [][2]int{{7, 7}}) {
+		t.Error(got)
+	}
 	if got := Ranges(all, 5, 5+1<<20-1); !slices.Equal(got, [][2]int{{5, 5 + 1<<20 - 1}}) {
 		t.Error(got)
 	}

@@ -111,6 +111,9 @@ func TestP33_2Tokens(t *testing.T) {
 	if v.M.Spent() != 2 {
 		t.Error("nothing but the default was spent", v.M.Spent())
 	}
+	if got, e := walk(t, env(t, roomy, ""), "<a b='c'/>"); got != "Sa b=c() Ea()" || e != api.OK {
+		t.Error("nothing is declared", got, e)
+	}
 	for _, bad := range []tok.Tok{{}, {Kind: -1}, {Kind: 10}} {
 		if e := Walk(v, []tok.Tok{bad}, func(Raw) api.Errno { return api.ErrBig }); e != api.OK {
 			t.Error(bad, e)

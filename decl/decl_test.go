@@ -78,6 +78,7 @@ func TestP16_3Others(t *testing.T) {
 	}
 	one(t, "<!ELEMENT p:a (b , c)* >", Decl{Kind: Element, Name: "p:a", Text: "(b , c)* "}, api.OK)
 	one(t, "<!ELEMENT a  EMPTY>", Decl{Kind: Element, Name: "a", Text: "EMPTY"}, api.OK)
+	one(t, "<!ELEMENT a b>", Decl{Kind: Element, Name: "a", Text: "b"}, api.OK)
 	for _, s := range []string{"<!ELEMENT a>", "<!ELEMENT a >", "<!ELEMENT a  \n>", "<!ELEMENT a (b", "<!ELEMENT a (<)>", "<!ELEMENT a &b;>", "<!ELEMENT a %b;>", "<!ELEMENT a 'x'>", `<!ELEMENT a "x">`, "<!ELEMENTa b>", "<!ELEMENT 1 b>"} {
 		one(t, s, Decl{}, api.ErrForm)
 	}

@@ -52,11 +52,11 @@ func TestP7_2Refs(t *testing.T) {
 
 func TestP7_3Values(t *testing.T) {
 	try(t, "Value", Value, []row{
-		{`'a&amp;b'`, 0, "a&amp;b", 9, api.OK}, {`"a<b"`, 0, "", 0, api.ErrForm}, {`"&#0;"`, 0, "", 0, api.ErrChar}, {`"&#0;<"`, 0, "", 0, api.ErrForm}, {`"&x"`, 0, "", 0, api.ErrForm},
+		{`'a&amp;b'`, 0, "a&amp;b", 9, api.OK}, {`"a<b"`, 0, "", 0, api.ErrForm}, {`"<b"`, 0, "", 0, api.ErrForm}, {`"&#0;"`, 0, "", 0, api.ErrChar}, {`"&#0;<"`, 0, "", 0, api.ErrForm}, {`"&x"`, 0, "", 0, api.ErrForm},
 		{`"a%b"`, 0, "a%b", 5, api.OK}, {`"`, 0, "", 0, api.ErrForm}, {`""`, 3, "", 0, api.ErrRange}, {`"&` + strings.Repeat("n", 1025) + `;"`, 0, "", 0, api.ErrLimit}, {"'a\n>\"'", 0, "a\n>\"", 6, api.OK},
 	})
 	try(t, "Entity", Entity, []row{
-		{`'a<b>&c;'`, 0, "a<b>&c;", 9, api.OK}, {`"a%b"`, 0, "", 0, api.ErrForm}, {`"&#0;"`, 0, "", 0, api.ErrChar}, {`"&#0;%"`, 0, "", 0, api.ErrForm}, {`"a&b"`, 0, "", 0, api.ErrForm}, {`"&#37;"`, 0, "&#37;", 7, api.OK}, {`x`, 0, "", 0, api.ErrForm}, {`x`, -1, "", 0, api.ErrRange},
+		{`'a<b>&c;'`, 0, "a<b>&c;", 9, api.OK}, {`"a%b"`, 0, "", 0, api.ErrForm}, {`"%b"`, 0, "", 0, api.ErrForm}, {`"&#0;"`, 0, "", 0, api.ErrChar}, {`"&#0;%"`, 0, "", 0, api.ErrForm}, {`"a&b"`, 0, "", 0, api.ErrForm}, {`"&#37;"`, 0, "&#37;", 7, api.OK}, {`x`, 0, "", 0, api.ErrForm}, {`x`, -1, "", 0, api.ErrRange},
 	})
 	try(t, "Public", Public, []row{
 		{`"-//A B//C'1"`, 0, "-//A B//C'1", 13, api.OK}, {`'a"b'`, 0, "", 0, api.ErrForm}, {`"a<"`, 0, "", 0, api.ErrForm}, {"\"a\tb\"", 0, "", 0, api.ErrForm}, {`"ä"`, 0, "", 0, api.ErrForm}, {"\"\xFF\"", 0, "", 0, api.ErrForm}, {`""`, 0, "", 2, api.OK}, {`"a`, 0, "", 0, api.ErrForm}, {`"a"`, 9, "", 0, api.ErrRange},

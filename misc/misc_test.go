@@ -47,7 +47,7 @@ func TestP8_2Pi(t *testing.T) {
 	}{
 		{"<?p  x ?>", 0, "p", "x ", 9, api.OK}, {"<?p?>", 0, "p", "", 5, api.OK}, {"<?p \t\r\n?>", 0, "p", "", 9, api.OK}, {"a<?p b??>c", 1, "p", "b?", 9, api.OK}, {"<?p ?x>?>", 0, "p", "?x>", 9, api.OK}, {"<?xmlx a?>", 0, "xmlx", "a", 10, api.OK},
 		{"<?xml a?>", 0, "", "", 0, api.ErrForm}, {"<?XmL?>", 0, "", "", 0, api.ErrForm}, {"<?p", 0, "", "", 0, api.ErrForm}, {"<?p a", 0, "", "", 0, api.ErrForm}, {"<?p a?", 0, "", "", 0, api.ErrForm}, {"<??>", 0, "", "", 0, api.ErrForm}, {"<? p?>", 0, "", "", 0, api.ErrForm},
-		{"<?p:q a?>", 0, "", "", 0, api.ErrForm}, {"<?p<?>", 0, "", "", 0, api.ErrForm}, {"<?p?a?>", 0, "", "", 0, api.ErrForm}, {"<p?>", 0, "", "", 0, api.ErrForm}, {"<?p?>", -1, "", "", 0, api.ErrRange}, {"<?p?>", 6, "", "", 0, api.ErrRange}, {"<?" + long + "?>", 0, "", "", 0, api.ErrLimit},
+		{"<?p:q a?>", 0, "", "", 0, api.ErrForm}, {"<?p<?>", 0, "", "", 0, api.ErrForm}, {"<?p?a?>", 0, "", "", 0, api.ErrForm}, {"<p?>", 0, "", "", 0, api.ErrForm}, {"<?p?>", -1, "", "", 0, api.ErrRange}, {"<?p?>", 6, "", "", 0, api.ErrRange}, {"<?p?>", 5, "", "", 0, api.ErrForm}, {"<?" + long + "?>", 0, "", "", 0, api.ErrLimit},
 	}
 	for _, x := range rows {
 		if target, data, next, e := Pi([]byte(x.b), x.at); target != x.target || data != x.data || next != x.next || e != x.e {

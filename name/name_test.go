@@ -78,6 +78,9 @@ func TestP5_3Part(t *testing.T) {
 }
 
 func TestP5_3Blanks(t *testing.T) {
+	if Blanks([]byte("  a"), 0) != 2 || Blanks(nil, 0) != 0 {
+		t.Error("from the beginning on")
+	}
 	b := []byte("a \t\r\nb ")
 	rows := [][2]int{{0, 0}, {1, 5}, {3, 5}, {5, 5}, {6, 7}, {7, 7}, {8, 8}, {-1, -1}, {-1 << 63, -1 << 63}, {1<<63 - 1, 1<<63 - 1}}
 	for _, x := range rows {

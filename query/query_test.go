@@ -161,6 +161,9 @@ func TestP47_3ValuesAndTexts(t *testing.T) {
 	if len(Find(events, many))+len(Values(events, many, k))+len(Texts(events, many)) != 0 {
 		t.Error("too many steps")
 	}
+	if len(Find(events, many[:64])) != 4 {
+		t.Error("as many steps as may be")
+	}
 	if len(Find(nil, many[:1])) != 0 || len(Find(events, nil)) != 0 {
 		t.Error("nothing")
 	}

@@ -52,6 +52,12 @@ func TestP12_2Rest(t *testing.T) {
 	if at, ok := s.Find(func(x int) bool { return x == 7 }); at != 2 || !ok {
 		t.Error(at, ok)
 	}
+	low, _ := New[int](2)
+	low.Push(5)
+	low.Push(6)
+	if at, ok := low.Find(func(x int) bool { return x == 5 }); at != 0 || !ok {
+		t.Error(at, ok)
+	}
 	if at, ok := s.Find(func(x int) bool { return x == 100 }); at != 0 || ok {
 		t.Error(at, ok)
 	}

@@ -82,7 +82,7 @@ func TestP10_3Put(t *testing.T) {
 		w   string
 		e   api.Errno
 	}{
-		{Tag{"a", pairs("b", "c'&d;", "e", ""), true}, `<a b="c'&d;" e=""/>`, api.OK}, {Tag{"p:a", nil, false}, "<p:a>", api.OK},
+		{Tag{"a", pairs("b", "c'&d;", "e", ""), true}, `<a b="c'&d;" e=""/>`, api.OK}, {Tag{"p:a", nil, false}, "<p:a>", api.OK}, {Tag{long[1:], pairs(long[1:], ""), false}, "<" + long[1:] + " " + long[1:] + `="">`, api.OK},
 		{Tag{"", nil, false}, "", api.ErrForm}, {Tag{"a", pairs("1", ""), false}, "", api.ErrForm}, {Tag{"a", pairs("b", "<"), false}, "", api.ErrForm}, {Tag{"a", pairs("b", `"`), false}, "", api.ErrForm}, {Tag{"a", pairs("b", "&"), false}, "", api.ErrForm}, {Tag{"a", pairs("b", "&#0;"), false}, "", api.ErrForm},
 		{Tag{long, nil, false}, "", api.ErrLimit}, {Tag{"a", pairs(long, ""), false}, "", api.ErrLimit}, {Tag{long, pairs("b", "<"), false}, "", api.ErrForm}, {Tag{"a", pairs("b", "", "b", ""), false}, "", api.ErrTwice}, {Tag{"a", pairs("b", "", "b", "", long, ""), false}, "", api.ErrLimit}, {Tag{"a", pairs("b", "", "b", "", "c", "&"), false}, "", api.ErrForm},
 	}
@@ -92,6 +92,9 @@ func TestP10_3Put(t *testing.T) {
 		}
 	}
 	if w, e := PutEnd("a:b"); w != "</a:b>" || e != api.OK {
+		t.Error(w, e)
+	}
+	if w, e := PutEnd(long[1:]); w != "</"+long[1:]+">" || e != api.OK {
 		t.Error(w, e)
 	}
 	if w, e := PutEnd("a b"); w != "" || e != api.ErrForm {

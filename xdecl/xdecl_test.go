@@ -48,7 +48,7 @@ func TestP9_2P9_3Xml(t *testing.T) {
 		{`<a/>`, -1, none, 0, api.ErrRange}, {`<a/>`, 5, none, 0, api.ErrRange},
 		{`<?xml encoding="utf-8"?>`, 0, none, 0, api.ErrForm}, {`<?xml ?>`, 0, none, 0, api.ErrForm}, {`<?xml version="1"?>`, 0, none, 0, api.ErrForm}, {`<?xml version="1."?>`, 0, none, 0, api.ErrForm},
 		{`<?xml version="2.0"?>`, 0, none, 0, api.ErrForm}, {`<?xml version="1.0a"?>`, 0, none, 0, api.ErrForm}, {`<?xml version=""?>`, 0, none, 0, api.ErrForm}, {`<?xml version="1.0" encoding="utf8"?>`, 0, none, 0, api.ErrForm},
-		{`<?xml version="1.0" encoding="latin1"?>`, 0, none, 0, api.ErrForm}, {`<?xml version="1.0" standalone="Yes"?>`, 0, none, 0, api.ErrForm}, {`<?xml version="1.0"encoding="utf-8"?>`, 0, none, 0, api.ErrForm},
+		{`<?xml version="1.0" encoding="latin1"?>`, 0, none, 0, api.ErrForm}, {`<?xml version="1.0" encoding="utf-7"?>`, 0, none, 0, api.ErrForm}, {`<?xml version="1.0" standalone="Yes"?>`, 0, none, 0, api.ErrForm}, {`<?xml version="1.0"encoding="utf-8"?>`, 0, none, 0, api.ErrForm},
 		{`<?xml version="1.0" standalone="yes" encoding="utf-8"?>`, 0, none, 0, api.ErrForm}, {`<?xml version="1.0" version="1.0"?>`, 0, none, 0, api.ErrForm}, {`<?xml version="1.0">`, 0, none, 0, api.ErrForm},
 		{`<?xml version="1.0" `, 0, none, 0, api.ErrForm}, {`<?xml version`, 0, none, 0, api.ErrForm}, {`<?xml version "1.0"?>`, 0, none, 0, api.ErrForm}, {`<?xml version="1.0" ? >`, 0, none, 0, api.ErrForm}, {`<?xml versions="1.0"?>`, 0, none, 0, api.ErrForm},
 	})
