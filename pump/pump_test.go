@@ -220,14 +220,35 @@ func TestP38_4InOrderAndNothingLeft(t *testing.T) {
 
 func TestP38Nil(t *testing.T) {
 	var p *Pump[string]
-	if s, ok := p.Next(); s != "" || ok || p.Stop() != api.ErrNil || len(Slice(p, 3)) != 0 {
-		t.Error("nil")
+	if s, ok := p.Next(); s != "" || ok {
+		t.Error(s, ok)
 	}
-	if e, ok := p.End(); e != api.OK || ok {
+	if e := p.Stop(); e != api.ErrNil {
+		t.Error(e)
+	}
+	if l := Slice(p, 3); len(l) != 0 {
+		t.Error(l)
+	}
+	// Next and Stop of no pump do not bring it to its end
+	if e, ok := p.End(); e != api.ErrNil || ok {
 		t.Error(e, ok)
 	}
+}
+
+// TestP38EndOfWhatNewDidNotMake: New tells no pump beside an error, and its End is ErrNil; of a pump that has only not begun it is OK.
+func TestP38EndOfWhatNewDidNotMake(t *testing.T) {
+	p, _ := New[int](0, nil)
+	end(t, p, api.ErrNil, false)
+	p, _ = New(-1, counts(1))
+	end(t, p, api.ErrNil, false)
+	end(t, start(t, 0, counts(1)), api.OK, false)
+}
+
+// TestP38Zero: what it answers is open, but each call ends, and none panics.
+func TestP38Zero(t *testing.T) {
 	var zero Pump[int]
 	zero.Next()
 	zero.Stop()
 	zero.End()
+	Slice(&zero, 2)
 }
